@@ -153,6 +153,17 @@ func expectFault(t *testing.T, l []api.Symbol, want api.Fault) {
 	}
 }
 
+// expectFaultAt expects a fault at the symbol with an index, or at the end of a list that has none there.
+func expectFaultAt(t *testing.T, text string, at int, code api.Errno) {
+	t.Helper()
+	l := list(text)
+	want := api.Fault{Code: code}
+	if 0 <= at && at < len(l) {
+		want.At = place(at)
+	}
+	expectFault(t, l, want)
+}
+
 // P6.1: the ranges of each kind of group, and the range of each symbol, brackets among them.
 func TestRanges(t *testing.T) {
 	for _, c := range []struct{ text, ranges, at string }{
@@ -251,7 +262,7 @@ func TestExamples(t *testing.T) {
 	expectFault(t, list("MODE INT = REAL"), api.Fault{At: place(1), Code: api.ErrName})
 }
 
-// P6.1: faults; At is given as the index of the symbol, or -1, if the list has no end.
+// P6.1: faults; At is given as the index of the symbol, or -1 or the length, if the list has no end.
 func TestFaults(t *testing.T) {
 	for _, c := range []struct {
 		text string
@@ -266,16 +277,41 @@ func TestFaults(t *testing.T) {
 		{"PRIO A = 0", 3, api.ErrRange}, {"PRIO + = 10", 3, api.ErrRange}, {"PRIO A = a", 3, api.ErrRange}, {"PRIO A = 3.0", 3, api.ErrRange}, {"PRIO A = B", 3, api.ErrRange}, {"PRIO A = - 3", 3, api.ErrRange}, {"PRIO A = = 3", 3, api.ErrRange}, {"PRIO A = ;", 3, api.ErrRange}, {"( PRIO A = )", 4, api.ErrRange}, {"PRIO A = ( 3 )", 3, api.ErrRange}, {"PRIO A = $", 3, api.ErrRange}, {"a PRIO A =", -1, api.ErrRange}, {"PRIO A = MODE INT", 3, api.ErrRange},
 		{"PRIO A = 1 , B = 0", 7, api.ErrRange}, {"PRIO A = 1 , B = 2 , C = 10", 11, api.ErrRange},
 		{"MODE A = INT ; MODE A = REAL", 6, api.ErrTwice}, {"MODE A = INT , A = REAL", 5, api.ErrTwice}, {"MODE A = INT , B = x EXIT ( ) MODE C = y , D = z , A = u", 20, api.ErrTwice},
-		{"PRIO A = 1 ; PRIO A = 1", 6, api.ErrTwice}, {"PRIO + = 1 , + = 2", 5, api.ErrTwice}, {"PRIO A = 1 , A = 0", 5, api.ErrTwice}, {"PRIO A = 1 ; PRIO A = x", 6, api.ErrTwice}, {"PRIO A = 1 ; PRIO A =", 6, api.ErrTwice}, {"PRIO = = 1 , = = 2", 5, api.ErrTwice},
+		{"PRIO A = 1 ; PRIO A = 1", 6, api.ErrTwice}, {"PRIO + = 1 , + = 2", 5, api.ErrTwice}, {"PRIO A = 1 , A = 0", 5, api.ErrTwice}, {"PRIO A = 1 ; PRIO A = 0", 6, api.ErrTwice}, {"PRIO A = 1 ; PRIO A = 10", 6, api.ErrTwice}, {"PRIO = = 1 , = = 2", 5, api.ErrTwice},
 		{"MODE A = INT ; OP A = x", 6, api.ErrTwice}, {"OP A = x ; MODE A = INT", 6, api.ErrTwice}, {"MODE A = INT ; PRIO A = 3", 6, api.ErrTwice}, {"PRIO A = 3 ; MODE A = INT", 6, api.ErrTwice}, {"MODE A = INT ; PRIO A = 0", 6, api.ErrTwice}, {"OP A = x , A = y ; PRIO A = 3 ; MODE B = z , A = z", 19, api.ErrTwice}, {"OP A = x ; MODE B = INT , A = y", 10, api.ErrTwice}, {"( MODE A = INT , OP A = x )", 7, api.ErrTwice}, {"WHILE MODE A = x WHILE OP A = y DO OD", 7, api.ErrTwice}, {"MODE A = x WHILE a DO b OD , A = y", 10, api.ErrTwice},
 		// The first of several, in the order of the text.
 		{"MODE INT ; PRIO A = 0", 1, api.ErrName}, {"PRIO A = 0 ; MODE INT", 3, api.ErrRange}, {"MODE A = x , A = y ; MODE INT ; PRIO A = 0", 5, api.ErrTwice}, {"( PRIO A = 0 ) MODE INT", 4, api.ErrRange}, {"IF a THEN OP a ELSE MODE INT FI", 4, api.ErrName}, {"MODE A = ( OP INT ) , A = y", 5, api.ErrName}, {"OP A = x ; ( MODE A = y , A = z ) ; MODE A = w", 11, api.ErrTwice},
 	} {
-		want := api.Fault{Code: c.code}
-		if c.at >= 0 {
-			want.At = place(c.at)
+		expectFaultAt(t, c.text, c.at, c.code)
+	}
+}
+
+// P6.1: PRIO, an operator and = declare nothing without an integer behind them, so that no range declares the operator twice by them; the fault is at what stands in the integer's place.
+func TestNoInteger(t *testing.T) {
+	for _, front := range []string{"", "MODE A = INT ; ", "PRIO A = 1 ; ", "PRIO A = 1 , + = 2 ; ", "PRIO A = 1 , ", "OP A = x , + = y ; ", "MODE A = INT WHILE b DO c OD , B = x ; ", "( MODE A = INT ) ; "} {
+		for _, op := range []string{"A", "+", "="} {
+			for _, behind := range []string{"", "x", "1.5", "B", "A", "INT", "+", "= 3", "- 3", ";", ", A = 1", "EXIT", "( 3 )", "[ 3 ]", "MODE INT", "PRIO A = 0", "WHILE 1 DO OD", "$ 3"} {
+				begun := front + "PRIO " + op + " ="
+				expectFaultAt(t, begun+" "+behind, len(strings.Fields(begun)), api.ErrRange)
+			}
 		}
-		expectFault(t, list(c.text), want)
+	}
+	for _, c := range []struct {
+		text string
+		at   int
+	}{
+		{"( MODE A = INT ; PRIO A = )", 9}, {"( PRIO A = 1 ; PRIO A = | b )", 9}, {"IF MODE A = INT ; PRIO A = THEN FI", 9}, {"WHILE PRIO A = 1 ; PRIO A = DO OD", 9}, {"[ ( MODE A = INT ; PRIO A = ) ]", 10}, {"MODE A = INT ; ( b ) PRIO A = ; MODE A = INT", 11},
+	} {
+		expectFaultAt(t, c.text, c.at, api.ErrRange)
+	}
+	// Symbols of all other kinds are no integers, whatever their texts are.
+	for _, kind := range []int{api.SymEnd, api.SymBold, api.SymTag, api.SymReal, api.SymBits, api.SymString, api.SymFormat, api.SymSign, -1, 9, math.MinInt, math.MaxInt} {
+		for _, front := range []string{"MODE A = INT ; PRIO A =", "PRIO A = 1 ; PRIO A =", "PRIO A ="} {
+			l := list(front + " 3 ; b")
+			n := len(l) - 3
+			l[n].Kind = kind
+			expectFault(t, l, api.Fault{At: place(n), Code: api.ErrRange})
+		}
 	}
 }
 

@@ -264,8 +264,9 @@ type said struct {
 }
 
 var (
-	starts = regexp.MustCompile(`M(w)=|P([wo=])=|O([wo=])=`)
-	goesOn = map[byte]*regexp.Regexp{'M': regexp.MustCompile(`^w=`), 'P': regexp.MustCompile(`^[wo=]=1`), 'O': regexp.MustCompile(`^[wo=]=`)}
+	starts   = regexp.MustCompile(`M(w)=|P([wo=])=1|O([wo=])=`)
+	noNumber = regexp.MustCompile(`^P[wo=]=([^1]|$)`)
+	goesOn   = map[byte]*regexp.Regexp{'M': regexp.MustCompile(`^w=`), 'P': regexp.MustCompile(`^[wo=]=1`), 'O': regexp.MustCompile(`^[wo=]=`)}
 )
 
 // saidIn returns the declarations of a range.
@@ -322,12 +323,15 @@ func (o oracle) faults() []fault {
 		if n >= 0 && strings.Contains("MPO", text[n:n+1]) && !indicants.Operator(o.symbolAt(i+1)) {
 			all = append(all, fault{i + 1, api.ErrName})
 		}
+		if n >= 0 && noNumber.MatchString(text[n:]) {
+			all = append(all, fault{i + 3, api.ErrRange})
+		}
 	}
 	for _, s := range o.spans() {
 		declared := o.known[s]
 		for n, d := range declared {
 			x := o.symbolAt(d.at + 2)
-			if d.kind == 'P' && (x.Kind != api.SymInt || len(x.Text) != 1 || x.Text == "0") {
+			if d.kind == 'P' && (len(x.Text) != 1 || x.Text == "0") {
 				all = append(all, fault{d.at + 2, api.ErrRange})
 			}
 			for _, e := range declared[:n] {
@@ -451,6 +455,7 @@ func TestShortDeclarations(t *testing.T) {
 	for _, front := range []string{"MODE A = ", "PRIO A = 1 ", "OP A = ", "OP + = "} {
 		every(strings.Fields("MODE OP A B + = , ; 1 0 a"), front, 3, func(text string) { compare(t, list(text)) })
 		every(strings.Fields("A + = , 1"), front+", ", 4, func(text string) { compare(t, list(text)) })
+		every(strings.Fields("A B + = , ; 1 0 a"), front+"; PRIO ", 4, func(text string) { compare(t, list(text)) })
 	}
 }
 
@@ -477,7 +482,7 @@ func someText(random *rand.Rand, depth int) string {
 		case n < 8:
 			s += "MODE " + strings.Fields("A B C D")[random.IntN(4)] + " = "
 		case n < 10:
-			s += "PRIO " + word() + "= " + strings.Fields("1 2 7 9 0 10 a")[random.IntN(5+random.IntN(9)/7)] + " "
+			s += "PRIO " + word() + "= " + strings.Fields("1 2 7 9 0 10 a")[random.IntN(5+2*(random.IntN(9)/7))] + " "
 		case n < 12:
 			s += "OP " + word() + "= "
 		case n < 14:

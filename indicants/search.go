@@ -87,17 +87,20 @@ func (s *search) begin(r, kind, i int) api.Fault {
 	if x := s.at(i); !Operator(x) {
 		return api.Fault{At: x.At, Code: api.ErrName}
 	}
-	if !s.isNamed(kind, i) {
-		return api.Fault{}
+	if s.isDeclaration(kind, i) {
+		s.runs[r].kind = kind
+		return s.declare(r, kind, i)
 	}
-	s.runs[r].kind = kind
-	return s.declare(r, kind, i)
+	if kind == asPrio && s.isNamed(kind, i) {
+		return api.Fault{At: s.at(i + 2).At, Code: api.ErrRange}
+	}
+	return api.Fault{}
 }
 
 // goOn declares in a range what stands behind a comma, if it is of the kind that was begun; if not, that kind goes on no more.
 func (s *search) goOn(r, i int) api.Fault {
 	kind := s.runs[r].kind
-	if kind == noKind || !s.isNamed(kind, i) || kind == asPrio && s.at(i+2).Kind != api.SymInt {
+	if kind == noKind || !s.isDeclaration(kind, i) {
 		s.runs[r].kind = noKind
 		return api.Fault{}
 	}
@@ -108,6 +111,11 @@ func (s *search) goOn(r, i int) api.Fault {
 func (s *search) isNamed(kind, i int) bool {
 	x := s.at(i)
 	return Operator(x) && (kind != asMode || x.Kind == api.SymBold) && isSign(s.at(i+1), "=")
+}
+
+// isDeclaration reports whether a declaration of a kind has its word at an index: without an integer behind = nothing has a priority declared.
+func (s *search) isDeclaration(kind, i int) bool {
+	return s.isNamed(kind, i) && (kind != asPrio || s.at(i+2).Kind == api.SymInt)
 }
 
 // declare enters a declaration, whose word stands at an index.
@@ -145,11 +153,8 @@ func (s *search) isTwice(r, kind int, word string) bool {
 	return s.seen[declared{r, asMode, word}]
 }
 
-// levelOf returns the priority that a symbol says, or 0.
+// levelOf returns the priority that an integer says, or 0.
 func levelOf(x api.Symbol) int {
-	if x.Kind != api.SymInt {
-		return 0
-	}
 	digit := strings.TrimLeft(x.Text, "0")
 	if len(digit) != 1 || digit < "1" || "9" < digit {
 		return 0
